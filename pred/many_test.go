@@ -392,6 +392,18 @@ func (d drawer) truth(room int) ast.Expr {
 	return op(ast.Eq+d.IntN(6), d.number(d.IntN(room)), d.number(d.IntN(room)))
 }
 
+// great puts an expression into some Eqs, each of which has its kids twice.
+func (d drawer) great(e ast.Expr) ast.Expr {
+	for range 3 + d.IntN(9) {
+		kids := []ast.Expr{e, d.truth(d.IntN(2))}
+		if d.IntN(2) == 0 {
+			slices.Reverse(kids)
+		}
+		e = op(ast.Eq+d.IntN(2), kids...)
+	}
+	return e
+}
+
 // model tells what predicates formulas have by calls in calls, one expression after the other, and each number's term anew.
 type model struct{ flags []string }
 
@@ -414,6 +426,15 @@ func (m model) number(e ast.Expr) api.Errno {
 
 // text is that of an expression's predicate where a truth must be.
 func (m model) text(e ast.Expr) (string, api.Errno) {
+	s, bad := m.textOfAny(e)
+	if bad == api.OK && len(s) > api.MaxAtoms && sizeOf(made(s)) > api.MaxAtoms {
+		return "", api.ErrFull
+	}
+	return s, bad
+}
+
+// textOfAny is likewise, of one that may be too great, but with no kid that is.
+func (m model) textOfAny(e ast.Expr) (string, api.Errno) {
 	if !m.isTruth(e) {
 		return "", api.ErrType
 	}
@@ -471,6 +492,9 @@ func TestDrawnExpressions(t *testing.T) { // P14.4
 	seen := map[api.Errno]int{}
 	for range 30000 {
 		e := d.truth(d.IntN(7))
+		if d.IntN(10) == 0 {
+			e = op(ast.And+d.IntN(3), d.great(e), d.truth(d.IntN(5)))
+		}
 		flags := []string{"p", "q", "t"}
 		if d.IntN(6) == 0 {
 			flags = append(flags, "res")
@@ -478,9 +502,6 @@ func TestDrawnExpressions(t *testing.T) { // P14.4
 		is, want := "", api.ErrForm
 		if _, bad := show.Formula(e); bad == api.OK {
 			is, want = model{flags}.text(e)
-		}
-		if want == api.OK && sizeOf(made(is)) > api.MaxAtoms {
-			want = api.ErrFull
 		}
 		got, err := pred.Of(e, bag.Of(flags...))
 		seen[err]++
@@ -495,7 +516,7 @@ func TestDrawnExpressions(t *testing.T) { // P14.4
 			t.FailNow()
 		}
 	}
-	for _, e := range []api.Errno{api.OK, api.ErrForm, api.ErrType, api.ErrLinear} {
+	for _, e := range []api.Errno{api.OK, api.ErrForm, api.ErrType, api.ErrLinear, api.ErrFull} {
 		if seen[e] < 300 {
 			t.Error("too few with error", e, ":", seen)
 		}

@@ -20,14 +20,20 @@ func Of(e ast.Expr, flags bag.Set[string]) (Pred, api.Errno) {
 	if bad := r.read(&e); bad != api.OK {
 		return Pred{}, bad
 	}
-	return r.made[0].told()
+	return r.made[0].own(), api.OK
 }
 
 // reader makes predicates of the truths in a formula.
 type reader struct {
 	flags bag.Set[string]
-	// made are those of truths that are done, and wait for what they are in. Some may have parts in common.
-	made []Pred
+	// made are those of truths that are done, and wait for what they are in. None is too great; some may have parts in common.
+	made []sized
+}
+
+// sized is a predicate, and how many are in it, itself too.
+type sized struct {
+	Pred
+	size int
 }
 
 // part is an expression that is gone through, and how many of its kids are begun.
@@ -79,23 +85,29 @@ func (r *reader) ofTruths(e *ast.Expr) bool {
 	return false
 }
 
-// finish makes the predicate of an expression where a truth must be. If it is of truths, theirs are made.
+// finish makes the predicate of an expression where a truth must be. If it is of truths, theirs are made. One that is too great is told of here, as another fault may stand behind it.
 func (r *reader) finish(e *ast.Expr) api.Errno {
-	if r.ofTruths(e) {
-		first := len(r.made) - len(e.Kids)
-		p := joined(e.Op, r.made[first:])
-		r.made = append(r.made[:first], p)
-		return api.OK
+	p, bad := r.truth(e)
+	if bad == api.OK && p.size > api.MaxAtoms {
+		bad = api.ErrFull
 	}
-	p, bad := r.alone(e)
-	if bad == api.OK {
-		r.made = append(r.made, p)
-	}
+	r.made = append(r.made, p)
 	return bad
 }
 
+// truth is the predicate of an expression where a truth must be. Of an expression of truths those of its kids don't wait any more.
+func (r *reader) truth(e *ast.Expr) (sized, api.Errno) {
+	if !r.ofTruths(e) {
+		return r.alone(e)
+	}
+	first := len(r.made) - len(e.Kids)
+	kids := r.made[first:]
+	r.made = r.made[:first]
+	return joined(e.Op, kids), api.OK
+}
+
 // joined is the predicate of an Op of truths.
-func joined(op int, kids []Pred) Pred {
+func joined(op int, kids []sized) sized {
 	switch op {
 	case ast.Not:
 		return not(kids[0])
@@ -110,7 +122,7 @@ func joined(op int, kids []Pred) Pred {
 }
 
 // sameOrNot is the predicate of an Eq or Ne, from that of the Eq.
-func sameOrNot(op int, same Pred) Pred {
+func sameOrNot(op int, same sized) sized {
 	if op == ast.Ne {
 		return not(same)
 	}
@@ -118,50 +130,58 @@ func sameOrNot(op int, same Pred) Pred {
 }
 
 // list is the And or Or of some, or the Not of one, whose own lists of kids it shares.
-func list(kind int, kids ...Pred) Pred {
-	return Pred{Kind: kind, Kids: append([]Pred(nil), kids...)}
+func list(kind int, kids ...sized) sized {
+	out := single(Pred{Kind: kind})
+	for _, kid := range kids {
+		out.Kids = append(out.Kids, kid.Pred)
+		out.size += kid.size
+	}
+	return out
 }
 
-func not(p Pred) Pred { return list(Not, p) }
+// single is a predicate that has no kids.
+func single(p Pred) sized { return sized{Pred: p, size: 1} }
+
+func not(p sized) sized { return list(Not, p) }
 
 // alone is the predicate of an expression where a truth must be and that isn't of truths.
-func (r *reader) alone(e *ast.Expr) (Pred, api.Errno) {
+func (r *reader) alone(e *ast.Expr) (sized, api.Errno) {
 	switch {
 	case !r.isTruth(e):
-		return Pred{}, api.ErrType
+		return sized{}, api.ErrType
 	case e.Op == ast.Truth && e.Yes:
-		return Pred{Kind: Yes}, api.OK
+		return single(Pred{Kind: Yes}), api.OK
 	case e.Op == ast.Truth:
-		return Pred{Kind: No}, api.OK
+		return single(Pred{Kind: No}), api.OK
 	case e.Op == ast.Var:
-		return Pred{Kind: Flag, Name: e.Name}, api.OK
+		return single(Pred{Kind: Flag, Name: e.Name}), api.OK
 	case e.Op == ast.Res:
-		return Pred{Kind: Flag, Name: result}, api.OK
+		return single(Pred{Kind: Flag, Name: result}), api.OK
 	}
 	a, bad := r.number(&e.Kids[0])
 	if bad != api.OK {
-		return Pred{}, bad
+		return sized{}, bad
 	}
 	b, bad := r.number(&e.Kids[1])
 	if bad != api.OK {
-		return Pred{}, bad
+		return sized{}, bad
 	}
 	return compared(e.Op, a, b), api.OK
 }
 
 // compared is the predicate of an Op of two numbers.
-func compared(op int, a, b term.Term) Pred {
+func compared(op int, a, b term.Term) sized {
 	switch op {
 	case ast.Lt:
-		return atMost(a.Minus(b).Plus(one()))
+		return single(atMost(a.Minus(b).Plus(one())))
 	case ast.Le:
-		return atMost(a.Minus(b))
+		return single(atMost(a.Minus(b)))
 	case ast.Gt:
-		return atMost(b.Minus(a).Plus(one()))
+		return single(atMost(b.Minus(a).Plus(one())))
 	case ast.Ge:
-		return atMost(b.Minus(a))
+		return single(atMost(b.Minus(a)))
 	}
-	return sameOrNot(op, Pred{Kind: Eq, Term: a.Minus(b)})
+	return sameOrNot(op, single(Pred{Kind: Eq, Term: a.Minus(b)}))
 }
 
 // number is the term of an expression where a number must be, or the first fault in it.

@@ -157,12 +157,51 @@ func TestFirstOfErrors(t *testing.T) { // P14.4
 	} {
 		wantNone(t, s, "p", want)
 	}
-	// There are too many only where there is a predicate.
+}
+
+// formulaWith is the text of a formula, in parentheses, whose predicate has so many in it.
+func formulaWith(size int) string {
+	s := "(p" + strings.Repeat("||p", (size-1)/2) + ")"
+	if size%2 == 0 {
+		s = "(not" + s + ")"
+	}
+	return s
+}
+
+func TestFullInItsPlace(t *testing.T) { // P14.4
+	const n = api.MaxAtoms
+	// The first of two has as many as may be, by each way that makes more; the second one has more.
+	for i, l := range [][2]string{
+		{"not" + formulaWith(n-1), "not" + formulaWith(n)},
+		{"p&&" + formulaWith(n-2), "p&&" + formulaWith(n-1)},
+		{formulaWith(n-50) + "||" + formulaWith(49), formulaWith(n-50) + "||" + formulaWith(50)},
+		{formulaWith(n-3) + "=>p", formulaWith(n-2) + "=>p"},
+		{"p=" + formulaWith(n/2-4), "p=" + formulaWith(n/2-3)},
+		{formulaWith(n/4-2) + "<>" + formulaWith(n/4-1), formulaWith(n/4-1) + "<>" + formulaWith(n/4-1)},
+	} {
+		for around, want := range map[string]api.Errno{
+			"_": api.OK, "_&&1": api.ErrType, "_&&x": api.ErrType, "_||x*x<1": api.ErrLinear, "_=>1+p<x/2": api.ErrType, "_=x": api.ErrType, "_<>(x%2=1)": api.ErrLinear, "true&&(_||x)": api.ErrType, "not(p=>(_&&p<1))": api.ErrType, "_&&x*x<1&&1": api.ErrLinear,
+		} {
+			_, e := pred.Of(formulaOf(t, strings.ReplaceAll(around, "_", "("+l[0]+")")), bag.Of("p"))
+			if e != want {
+				t.Errorf("%d in %s: error %d, want error %d", i, around, e, want)
+			}
+			wantNone(t, strings.ReplaceAll(around, "_", "("+l[1]+")"), "p", api.ErrFull)
+		}
+		for around, want := range map[string]api.Errno{
+			// What stands ahead of it is told first.
+			"1&&_": api.ErrType, "x||_": api.ErrType, "x*x<1&&_": api.ErrLinear, "x/2=p=>_": api.ErrLinear, "p&&(p||x)&&_": api.ErrType, "p=(1=p||_)": api.ErrType,
+			// Where a number must be it isn't looked into.
+			"1=_": api.ErrType, "_<x*x": api.ErrType, "x*x<_": api.ErrLinear,
+		} {
+			wantNone(t, strings.ReplaceAll(around, "_", "("+l[1]+")"), "p", want)
+		}
+	}
 	many := strings.Repeat("p&&", 4096)
-	wantNone(t, many+"p", "p", api.ErrFull)
-	wantNone(t, many+"x", "p", api.ErrType)
-	wantNone(t, many+"x*x<1", "p", api.ErrLinear)
-	wantNone(t, many+"x*x<p", "p", api.ErrLinear)
+	for s, want := range map[string]api.Errno{"p": api.ErrFull, "x": api.ErrType, "x*x<1": api.ErrLinear, "x*x<p": api.ErrLinear} {
+		wantNone(t, many+s, "p", api.ErrFull)
+		wantNone(t, s+strings.Repeat("&&p", 4096), "p", want)
+	}
 }
 
 func TestOfAtTheLimit(t *testing.T) { // P14.4
@@ -204,8 +243,10 @@ func TestEqsInEqs(t *testing.T) { // P14.4: each has its kids twice
 	}
 	wantNone(t, left, "p", api.ErrFull)
 	wantNone(t, right, "p", api.ErrFull)
-	wantNone(t, "("+left+")&&x", "p", api.ErrType)
-	wantNone(t, "("+right+")&&x/2=1", "p", api.ErrLinear)
+	wantNone(t, "("+left+")&&x", "p", api.ErrFull)
+	wantNone(t, "("+right+")&&x/2=1", "p", api.ErrFull)
+	wantNone(t, "x&&("+left+")", "p", api.ErrType)
+	wantNone(t, "x/2=1&&("+right+")", "p", api.ErrLinear)
 }
 
 func TestNoFormula(t *testing.T) { // P14.4
